@@ -7,25 +7,103 @@ import (
 	"testing"
 
 	"sapling/api"
+	"sapling/page"
 )
 
-var oddNumbers = []int{math.MinInt, -1, 0, 1, 2, 3, 4, 5, 63, 64, 9999, 10000, math.MaxInt}
+var oddNumbers = []int{math.MinInt, -9999, -1, 0, 1, 2, 3, 4, 5, 6, 63, 64, 9998, 9999, 10000, 10001, math.MaxInt}
 
-var oddTexts = []string{"", "0", "-", "0------", "2------000004050011", "\x00", "\xff\xfe", strings.Repeat("0", 47), strings.Repeat("9", 100000)}
+var oddTexts = []string{"", "0", "-", ",", "0,", "0------", "2------000004050011", "1------500001", "\x00", "\xff\xfe",
+	strings.Repeat("0", 47), strings.Repeat("9", 100000), strings.Repeat("0,", 100000)}
 
-func TestOddOperations(t *testing.T) {
+func TestFirst(t *testing.T) {
+	n, err := page.Unpack(First())
+	if First() != "0------" || err != api.OK || n.Level != 0 || n.Link != -1 || n.High != 10000 || len(n.Keys) != 0 || len(n.Vals) != 0 {
+		t.Errorf("P5: First() = %q: %+v, %d", First(), n, err)
+	}
+}
+
+// rightByWords is the document's word on when an operation is right.
+func rightByWords(op api.Op) bool {
+	isKey := 1 <= op.Key && op.Key <= 9999
+	isValue := 0 <= op.Value && op.Value <= 9999
+	isEnd := op.Key <= op.Value && op.Value <= 9999
+	return isKey && (op.Kind == 1 || op.Kind == 2 && isValue || op.Kind == 3 || op.Kind == 4 && isEnd)
+}
+
+func checkBegin(t *testing.T, op api.Op) bool {
+	t.Helper()
+	frame, err := Begin(op)
+	again, errAgain := Begin(op)
+	if again != frame || errAgain != err {
+		t.Errorf("P2: Begin(%+v) answers %q, %d and then %q, %d", op, frame, err, again, errAgain)
+	}
+	if !rightByWords(op) {
+		if frame != "" || err != api.ErrOp {
+			t.Errorf("P6: Begin(%+v) = %q, %d; want ErrOp", op, frame, err)
+		}
+		return false
+	}
+	ask, errNext := Next(frame)
+	if err != api.OK || errNext != api.OK || ask.Kind != api.Read || ask.Page != 0 {
+		t.Errorf("P6: Begin(%+v) = %q, %d: its first access is %+v, %d", op, frame, err, ask, errNext)
+	}
+	_, _, _, errTell := Tell(frame, api.Reply{Text: First()})
+	if errTell != api.OK {
+		t.Errorf("P6: %+v: Tell: %d", op, errTell)
+	}
+	return true
+}
+
+func TestBegin(t *testing.T) {
+	right := 0
 	for _, kind := range oddNumbers {
 		for _, key := range oddNumbers {
 			for _, value := range oddNumbers {
-				op := api.Op{Kind: kind, Key: key, Value: value}
-				frame, err := Begin(op)
-				if err != api.OK && frame != "" {
-					t.Errorf("P1: Begin(%+v) = %q beside %d", op, frame, err)
+				if checkBegin(t, api.Op{Kind: kind, Key: key, Value: value}) {
+					right++
 				}
-				again, errAgain := Begin(op)
-				if again != frame || errAgain != err {
-					t.Errorf("P2: Begin(%+v) answers %q, %d and then %q, %d", op, frame, err, again, errAgain)
+			}
+		}
+	}
+	for number := -3; number <= 10003; number++ {
+		for kind := 0; kind <= 5; kind++ {
+			for _, op := range []api.Op{{Kind: kind, Key: number, Value: 5000}, {Kind: kind, Key: 5000, Value: number}, {Kind: number, Key: 5, Value: 5}} {
+				if checkBegin(t, op) {
+					right++
 				}
+			}
+		}
+	}
+	if right < 60000 {
+		t.Errorf("only %d right operations were tried", right)
+	}
+}
+
+func TestDocumentsOperations(t *testing.T) {
+	for _, op := range []api.Op{{Kind: api.Get, Key: 0}, {Kind: api.Put, Key: 5, Value: 10000}, {Kind: api.Scan}, {Kind: api.Scan, Key: 5, Value: 4}, {Kind: api.Scan, Key: 5}} {
+		frame, err := Begin(op)
+		if frame != "" || err != api.ErrOp {
+			t.Errorf("P6: Begin(%+v) = %q, %d; want ErrOp", op, frame, err)
+		}
+	}
+	for _, op := range []api.Op{{Kind: api.Drop, Key: 5, Value: -1}, {Kind: api.Scan, Key: 5, Value: 5}} {
+		_, err := Begin(op)
+		if err != api.OK {
+			t.Errorf("P6: Begin(%+v): %d", op, err)
+		}
+	}
+}
+
+// The values of a Get and a Drop are not looked at: whatever they are, everything goes alike.
+func TestValueIsNotLookedAt(t *testing.T) {
+	for _, kind := range []int{api.Get, api.Drop} {
+		for _, value := range oddNumbers {
+			p := linkedLeaf()
+			answer, asks := alone(t, p, api.Op{Kind: kind, Key: 12, Value: value})
+			q := linkedLeaf()
+			want, wantAsks := alone(t, q, api.Op{Kind: kind, Key: 12})
+			if !reflect.DeepEqual(answer, want) || !reflect.DeepEqual(asks, wantAsks) || *p != *q {
+				t.Errorf("P6: kind %d with Value %d: %+v, want %+v", kind, value, answer, want)
 			}
 		}
 	}
@@ -33,20 +111,25 @@ func TestOddOperations(t *testing.T) {
 
 func TestOddFrames(t *testing.T) {
 	for _, frame := range oddTexts {
-		ask, err := Next(frame)
-		if err != api.OK && ask != (api.Ask{}) {
-			t.Errorf("P1: Next(%.60q) = %+v beside %d", frame, ask, err)
-		}
-		askAgain, errAgain := Next(frame)
-		if askAgain != ask || errAgain != err {
-			t.Errorf("P2: Next(%.60q) answers twice not alike", frame)
-		}
+		checkNext(t, frame)
 		for _, text := range oddTexts {
 			for _, number := range oddNumbers {
 				checkTell(t, frame, api.Reply{Version: number, Page: number, Text: text})
 				checkTell(t, frame, api.Reply{Version: number, Page: -1, Text: text, Done: true})
 			}
 		}
+	}
+}
+
+func checkNext(t *testing.T, frame string) {
+	t.Helper()
+	ask, err := Next(frame)
+	if err != api.OK && ask != (api.Ask{}) {
+		t.Errorf("P1: Next(%.60q) = %+v beside %d", frame, ask, err)
+	}
+	askAgain, errAgain := Next(frame)
+	if askAgain != ask || errAgain != err {
+		t.Errorf("P2: Next(%.60q) answers twice not alike", frame)
 	}
 }
 
@@ -60,4 +143,101 @@ func checkTell(t *testing.T, frame string, r api.Reply) {
 	if nextAgain != next || endedAgain != ended || errAgain != err || !reflect.DeepEqual(answerAgain, answer) {
 		t.Errorf("P2: Tell(%.60q) answers twice not alike", frame)
 	}
+}
+
+// framesOf are all frames of an operation that moves alone.
+func framesOf(t *testing.T, p *pages, op api.Op) []string {
+	t.Helper()
+	var frames []string
+	frame, err := Begin(op)
+	for ended := false; !ended && err == api.OK; {
+		frames = append(frames, frame)
+		ask, _ := Next(frame)
+		frame, _, ended, err = Tell(frame, p.act(ask))
+	}
+	return frames
+}
+
+// Replies that no page would give, told to frames that are right.
+func TestOddReplies(t *testing.T) {
+	for kind := api.Get; kind <= api.Scan; kind++ {
+		for _, frame := range framesOf(t, linkedAll(), api.Op{Kind: kind, Key: 9, Value: 9999}) {
+			for _, text := range oddTexts {
+				for _, number := range oddNumbers {
+					checkTell(t, frame, api.Reply{Version: number, Page: number, Text: text})
+				}
+			}
+			for _, text := range linkedAll().texts {
+				checkTell(t, frame, api.Reply{Text: text, Done: true})
+			}
+			checkTell(t, frame, api.Reply{Version: -1})
+		}
+	}
+}
+
+// Frames that are one byte away from a right one, and pieces of them.
+func TestFramesNearby(t *testing.T) {
+	for kind := api.Get; kind <= api.Scan; kind++ {
+		for _, frame := range framesOf(t, linkedAll(), api.Op{Kind: kind, Key: 9, Value: 9999}) {
+			for i := range frame {
+				checkFrame(t, frame[:i])
+				checkFrame(t, frame[i:])
+				for _, b := range []string{"", "0", "1", "7", "9", ",", "-", "+", " ", "\x00", "\xff", "99999999999999999999", "9223372036854775807", "18446744073709551616"} {
+					checkFrame(t, frame[:i]+b+frame[i:])
+					checkFrame(t, frame[:i]+b+frame[i+1:])
+				}
+			}
+		}
+	}
+}
+
+func checkFrame(t *testing.T, frame string) {
+	t.Helper()
+	checkNext(t, frame)
+	for _, text := range []string{"", "0------", "0050020" + "00090001", "1------" + "999901", "1050020" + "000007", "0------" + "00010001" + "00100001" + "99990001"} {
+		checkTell(t, frame, api.Reply{Text: text})
+	}
+}
+
+// The document leaves open what is answered to frames that nobody answered: this is what the program does.
+func TestNoFrames(t *testing.T) {
+	scan := api.Op{Kind: api.Scan, Key: 5, Value: 20}
+	eleven := []int{5, 6, 7, 8, 9, 10, 11, 12, 13, 14, 15}
+	for _, s := range []state{
+		{op: scan}, {op: scan, step: math.MaxInt - 9, page: 63}, {op: scan, keys: eleven, vals: eleven},
+		{op: scan, belows: []int{6, 7, 20}, points: []int{2, 3, 4}},
+	} {
+		_, err := Next(frameText(s))
+		if err != api.OK {
+			t.Errorf("Next of the frame of %+v: %d", s, err)
+		}
+	}
+	frames := []string{"", "0", ",", frameText(state{op: scan}) + "0,", "0" + frameText(state{}), "," + frameText(state{op: scan})}
+	for _, s := range []state{
+		{}, {op: api.Op{Kind: api.Scan, Key: 5, Value: 4}}, {op: scan, page: 64}, {op: scan, page: -1}, {op: scan, step: -1},
+		{op: scan, keys: eleven, vals: eleven[1:]}, {op: scan, keys: append(eleven, 16), vals: append(eleven, 16)},
+		{op: scan, belows: []int{6, 7}, points: []int{2}}, {op: scan, belows: []int{5}, points: []int{2}}, {op: scan, belows: []int{21}, points: []int{2}},
+		{op: scan, belows: []int{7, 7}, points: []int{2, 3}}, {op: api.Op{Kind: api.Get, Key: 5}, belows: []int{6}, points: []int{1}},
+	} {
+		frames = append(frames, frameText(s))
+	}
+	for _, step := range []string{"", "x", "9223372036854775808", "99999999999999999999"} {
+		frames = append(frames, strings.Replace(frameText(state{op: scan, step: 777}), "777", step, 1))
+	}
+	for _, frame := range frames {
+		_, errNext := Next(frame)
+		_, _, _, errTell := Tell(frame, api.Reply{Text: First()})
+		if errNext != api.ErrFrame || errTell != api.ErrFrame {
+			t.Errorf("%q is no frame: Next %d, Tell %d", frame, errNext, errTell)
+		}
+	}
+}
+
+func FuzzTell(f *testing.F) {
+	f.Add("4,9,9999,3,4,1,9,1,90,1,10,1,2,", 0, 0, "0------00100001", false)
+	f.Add("1,9,0,0,0,0,0,0,0,", 0, 0, "2------000001", true)
+	f.Fuzz(func(t *testing.T, frame string, version, number int, text string, done bool) {
+		checkNext(t, frame)
+		checkTell(t, frame, api.Reply{Version: version, Page: number, Text: text, Done: done})
+	})
 }
