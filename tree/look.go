@@ -35,7 +35,7 @@ func goOn(s state, next int) (string, api.Answer, bool, api.Errno) {
 	return frameText(s), api.Answer{}, false, api.OK
 }
 
-// lookUp is the answer of an operation that ends at the leaf of its key.
+// lookUp is the answer of an operation that ends with reading the leaf of its key.
 func lookUp(s state, leaf api.Node) api.Answer {
 	answer := api.Answer{Point: s.step}
 	for i := 0; i < len(leaf.Keys) && i < len(leaf.Vals); i++ {

@@ -292,16 +292,6 @@ func TestLookingOverGrownPages(t *testing.T) {
 	}
 }
 
-// For now a Put and a Drop may end where they like: but they end, and without an error.
-func TestEveryOperationEnds(t *testing.T) {
-	for _, p := range handMade() {
-		for _, key := range marksOf(p.leaves(t)) {
-			alone(t, p, api.Op{Kind: api.Drop, Key: key, Value: 10000})
-			alone(t, p, api.Op{Kind: api.Put, Key: key, Value: key})
-		}
-	}
-}
-
 func TestAnswersAreFresh(t *testing.T) {
 	for _, p := range []*pages{oneLeaf(), fourFull()} {
 		op := api.Op{Kind: api.Scan, Key: 1, Value: 9999}

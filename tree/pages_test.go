@@ -64,40 +64,6 @@ func (p *pages) node(t *testing.T, number int) api.Node {
 	return n
 }
 
-// alone runs an operation to its end, and tells all its accesses as well.
-func alone(t *testing.T, p *pages, op api.Op) (api.Answer, []api.Ask) {
-	t.Helper()
-	frame, err := Begin(op)
-	if err != api.OK {
-		t.Fatalf("P6: Begin(%+v): %d", op, err)
-	}
-	var asks []api.Ask
-	for len(asks) < 1000 {
-		ask, err := Next(frame)
-		if err != api.OK {
-			t.Fatalf("P6: %+v: Next(%q): %d", op, frame, err)
-		}
-		if len(asks) == 0 && (ask.Kind != api.Read || ask.Page != 0) {
-			t.Fatalf("P6: %+v begins with %+v", op, ask)
-		}
-		asks = append(asks, ask)
-		reply := p.act(ask)
-		next, answer, ended, err := Tell(frame, reply)
-		if err != api.OK {
-			t.Fatalf("P6: %+v: Tell(%q, %+v): %d", op, frame, reply, err)
-		}
-		if ended {
-			if next != "" {
-				t.Fatalf("%+v has ended, and has the frame %q", op, next)
-			}
-			return answer, asks
-		}
-		frame = next
-	}
-	t.Fatalf("P11: %+v does not end: %+v", op, asks[990:])
-	return api.Answer{}, nil
-}
-
 // leaves goes along the leaves, as P9 does.
 func (p *pages) leaves(t *testing.T) []api.Node {
 	t.Helper()

@@ -149,11 +149,8 @@ func checkTell(t *testing.T, frame string, r api.Reply) {
 func framesOf(t *testing.T, p *pages, op api.Op) []string {
 	t.Helper()
 	var frames []string
-	frame, err := Begin(op)
-	for ended := false; !ended && err == api.OK; {
-		frames = append(frames, frame)
-		ask, _ := Next(frame)
-		frame, _, ended, err = Tell(frame, p.act(ask))
+	for c := begin(t, op); !c.ended; c.move(t, p, len(frames)) {
+		frames = append(frames, c.frame)
 	}
 	return frames
 }
@@ -164,14 +161,31 @@ func TestOddReplies(t *testing.T) {
 		for _, frame := range framesOf(t, linkedAll(), api.Op{Kind: kind, Key: 9, Value: 9999}) {
 			for _, text := range oddTexts {
 				for _, number := range oddNumbers {
-					checkTell(t, frame, api.Reply{Version: number, Page: number, Text: text})
+					checkOddReply(t, frame, api.Reply{Version: number, Page: number, Text: text})
 				}
 			}
 			for _, text := range linkedAll().texts {
-				checkTell(t, frame, api.Reply{Text: text, Done: true})
+				for _, number := range oddNumbers {
+					checkOddReply(t, frame, api.Reply{Version: number, Text: text})
+					checkOddReply(t, frame, api.Reply{Version: number, Text: text, Done: true})
+				}
 			}
-			checkTell(t, frame, api.Reply{Version: -1})
+			checkOddReply(t, frame, api.Reply{Version: -1})
 		}
+	}
+}
+
+// checkOddReply: whatever a right frame is told, what comes of it is a frame again.
+func checkOddReply(t *testing.T, frame string, r api.Reply) {
+	t.Helper()
+	checkTell(t, frame, r)
+	next, _, ended, err := Tell(frame, r)
+	if ended || err != api.OK {
+		return
+	}
+	_, errNext := Next(next)
+	if errNext != api.OK {
+		t.Errorf("P6: Tell(%q, %+v) = %q: Next: %d", frame, r, next, errNext)
 	}
 }
 
@@ -197,15 +211,18 @@ func checkFrame(t *testing.T, frame string) {
 	for _, text := range []string{"", "0------", "0050020" + "00090001", "1------" + "999901", "1050020" + "000007", "0------" + "00010001" + "00100001" + "99990001"} {
 		checkTell(t, frame, api.Reply{Text: text})
 	}
+	checkTell(t, frame, api.Reply{Done: true})
 }
 
 // The document leaves open what is answered to frames that nobody answered: this is what the program does.
 func TestNoFrames(t *testing.T) {
-	scan := api.Op{Kind: api.Scan, Key: 5, Value: 20}
+	scan := scan(5, 20)
+	leaf := "0070020" + "00050006"
 	eleven := []int{5, 6, 7, 8, 9, 10, 11, 12, 13, 14, 15}
 	for _, s := range []state{
 		{op: scan}, {op: scan, step: math.MaxInt - 9, page: 63}, {op: scan, keys: eleven, vals: eleven},
-		{op: scan, belows: []int{6, 7, 20}, points: []int{2, 3, 4}},
+		{op: scan, belows: []int{6, 7, 20}, points: []int{2, 3, 4}}, {op: scan, step: math.MaxInt - 1},
+		{op: put(5, 6), swap: leaf}, {op: drop(5), swap: leaf, page: 63, version: math.MaxInt, found: true, value: 9999},
 	} {
 		_, err := Next(frameText(s))
 		if err != api.OK {
@@ -217,13 +234,19 @@ func TestNoFrames(t *testing.T) {
 		{}, {op: api.Op{Kind: api.Scan, Key: 5, Value: 4}}, {op: scan, page: 64}, {op: scan, page: -1}, {op: scan, step: -1},
 		{op: scan, keys: eleven, vals: eleven[1:]}, {op: scan, keys: append(eleven, 16), vals: append(eleven, 16)},
 		{op: scan, belows: []int{6, 7}, points: []int{2}}, {op: scan, belows: []int{5}, points: []int{2}}, {op: scan, belows: []int{21}, points: []int{2}},
-		{op: scan, belows: []int{7, 7}, points: []int{2, 3}}, {op: api.Op{Kind: api.Get, Key: 5}, belows: []int{6}, points: []int{1}},
+		{op: scan, belows: []int{7, 7}, points: []int{2, 3}}, {op: scan, step: math.MaxInt}, {op: scan, version: -1}, {op: scan, value: -1},
+		{op: get(5), belows: []int{6}, points: []int{1}}, {op: put(5, 20), belows: []int{6}, points: []int{1}}, {op: drop(5), keys: eleven, vals: eleven},
+		{op: get(5), swap: leaf}, {op: scan, swap: leaf}, {op: put(5, 6), swap: "0"}, {op: put(5, 6), swap: "1------" + "000001"},
+		{op: put(5, 6), version: 1}, {op: put(5, 6), found: true}, {op: drop(5), value: 1}, {op: drop(5), swap: leaf, value: 1},
+		{op: drop(5), swap: leaf, found: true, value: 10000}, {op: put(5, 6), swap: leaf + ","},
 	} {
 		frames = append(frames, frameText(s))
 	}
-	for _, step := range []string{"", "x", "9223372036854775808", "99999999999999999999"} {
+	for _, step := range []string{"", "x", "9223372036854775808", "99999999999999999999", "-1", "+1"} {
 		frames = append(frames, strings.Replace(frameText(state{op: scan, step: 777}), "777", step, 1))
 	}
+	swap := frameText(state{op: put(5, 6), version: 777, swap: leaf})
+	frames = append(frames, strings.Replace(swap, "777,0", "777,2", 1), swap+"00070007", swap[:len(swap)-8], swap[:len(swap)-len(leaf)])
 	for _, frame := range frames {
 		_, errNext := Next(frame)
 		_, _, _, errTell := Tell(frame, api.Reply{Text: First()})
@@ -234,8 +257,10 @@ func TestNoFrames(t *testing.T) {
 }
 
 func FuzzTell(f *testing.F) {
-	f.Add("4,9,9999,3,4,1,9,1,90,1,10,1,2,", 0, 0, "0------00100001", false)
-	f.Add("1,9,0,0,0,0,0,0,0,", 0, 0, "2------000001", true)
+	f.Add("4,9,9999,3,4,1,9,1,90,1,10,1,2,0,0,0,0,", 0, 0, "0------00100001", false)
+	f.Add("1,9,0,0,0,0,0,0,0,0,0,0,0,", 0, 0, "2------000001", true)
+	f.Add("2,9,1,3,4,0,0,0,0,0,0,0,0,", 7, 0, "0------00100001", false)
+	f.Add("3,9,0,4,4,0,0,0,0,7,1,90,15,0------00100001", 0, 0, "", true)
 	f.Fuzz(func(t *testing.T, frame string, version, number int, text string, done bool) {
 		checkNext(t, frame)
 		checkTell(t, frame, api.Reply{Version: version, Page: number, Text: text, Done: done})
