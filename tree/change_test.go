@@ -50,7 +50,7 @@ func TestDocumentsDropOfNothing(t *testing.T) {
 		before := p.copied()
 		answer, asks := alone(t, p, drop(14))
 		way := p.wayTo(t, 14)
-		if !sameAnswer(answer, api.Answer{Point: len(way) - 1}) || *p != *before {
+		if !sameAnswer(answer, api.Answer{Point: len(way) - 1}) || !p.same(before) {
 			t.Errorf("P8: a Drop of a key that is not there: %+v, %q", answer, p.texts)
 		}
 		checkReads(t, p, asks, way)
@@ -106,7 +106,7 @@ func TestChange(t *testing.T) {
 		if !sameAnswer(answer, api.Answer{Found: c.had >= 0, Value: max(c.had, 0), Point: len(way)}) {
 			t.Errorf("P8: %s: %+v = %+v", c.why, c.op, answer)
 		}
-		if *c.p != *want {
+		if !c.p.same(want) {
 			t.Errorf("P8: %s: %+v leaves %q", c.why, c.op, c.p.texts)
 		}
 		last := len(asks) - 1
@@ -353,6 +353,7 @@ func roomy(r *rand.Rand, leaves []api.Node) []int {
 }
 
 func TestChangingGrownPages(t *testing.T) {
+	t.Parallel()
 	r := rand.New(rand.NewPCG(3, 4))
 	for round := range 60 {
 		p := grown(t, r, round%10, []int{30, 120, 10000}[round%3])
@@ -363,24 +364,6 @@ func TestChangingGrownPages(t *testing.T) {
 			checkAlone(t, p, []api.Op{get(key), put(key, r.IntN(10000)), put(key, r.IntN(3)), drop(key)}[r.IntN(4)])
 		}
 		checkShape(t, before, p)
-	}
-}
-
-// For now, as leaves are not split: a Put that finds no room has no effect, and says so.
-func TestFullLeaf(t *testing.T) {
-	for key := 1; key <= 30; key++ {
-		p := fourFull()
-		p.texts[4] = "0------" + "00160016" + "00170017" + "00180018" + "00190019" + "00250020"
-		has := p.content(t)
-		answer, asks := alone(t, p, put(key, 7))
-		if _, found := has[key]; found {
-			continue
-		}
-		if !sameAnswer(answer, api.Answer{Err: api.ErrFull}) {
-			t.Errorf("Put of %d into a full leaf: %+v", key, answer)
-		}
-		checkReads(t, p, asks, p.wayTo(t, key))
-		checkContent(t, p, has)
 	}
 }
 
@@ -416,6 +399,7 @@ func TestSwapLooksAtDoneAlone(t *testing.T) {
 
 // A leaf's text is written anew: a Put leaves no key twice, and none out of order.
 func TestSwappedTextsAreRight(t *testing.T) {
+	t.Parallel()
 	r := rand.New(rand.NewPCG(5, 6))
 	for range 3000 {
 		high := 2 + r.IntN(9998)

@@ -4,32 +4,39 @@ import (
 	"strconv"
 
 	"sapling/api"
-	"sapling/page"
 )
 
 // state is what an operation knows between two accesses.
 type state struct {
 	op   api.Op
 	step int // the number of the access that is wanted
-	page int // the page that is to be read, or swapped
+	page int // the page that is to be read, or changed
 
 	// What a Scan has seen: its keys and values, and its cuts, in two lists as well.
 	keys, vals     []int
 	belows, points []int
 
-	// What a Put or a Drop is to swap its leaf for; empty, while a page is to be read. Beside it:
-	// the version that the leaf had, and what it had for the key.
-	swap    string
+	// The text of the page that a Put or a Drop is to change, and its version; empty, while the
+	// page is to be read.
+	seen    string
 	version int
-	found   bool
-	value   int
+
+	// Pages that a Put has made, and to which nothing leads, with their versions. The first of
+	// them, as many as are laid, have their text for the split that is under way.
+	spares, spareVersions []int
+	laid                  int
+
+	// From level 1 on: the Put took effect at the access point, and split nodes below this level.
+	// What is left to do is to enter the page child here, for the keys from low on.
+	level, low, child, point int
 }
 
-const maxInt = int(^uint(0) >> 1)
+// maxSpares is the most that a split takes: that of the root.
+const maxSpares = 2
 
 // frameText writes a state's numbers, each with a comma behind it, each list with its length
-// ahead of it, and so the text of a swap, which stands last: so everything ends, and a frame that
-// was cut off is no other frame.
+// ahead of it, and so the text of the page, which stands last: so everything ends, and a frame
+// that was cut off is no other frame.
 func frameText(s state) string {
 	text := ""
 	text = addNumber(text, s.op.Kind)
@@ -42,21 +49,19 @@ func frameText(s state) string {
 	text = addList(text, s.belows)
 	text = addList(text, s.points)
 	text = addNumber(text, s.version)
-	text = addFlag(text, s.found)
-	text = addNumber(text, s.value)
-	text = addNumber(text, len(s.swap))
-	return text + s.swap
+	text = addList(text, s.spares)
+	text = addList(text, s.spareVersions)
+	text = addNumber(text, s.laid)
+	text = addNumber(text, s.level)
+	text = addNumber(text, s.low)
+	text = addNumber(text, s.child)
+	text = addNumber(text, s.point)
+	text = addNumber(text, len(s.seen))
+	return text + s.seen
 }
 
 func addNumber(text string, number int) string {
 	return text + strconv.Itoa(number) + ","
-}
-
-func addFlag(text string, flag bool) string {
-	if flag {
-		return addNumber(text, 1)
-	}
-	return addNumber(text, 0)
 }
 
 func addList(text string, list []int) string {
@@ -81,27 +86,43 @@ func readFrame(frame string) (state, bool) {
 	s.belows = r.list()
 	s.points = r.list()
 	s.version = r.number()
-	s.found = r.flag()
-	s.value = r.number()
-	s.swap = r.rest()
-	if r.bad || s.page >= api.MaxPages || !rightOp(s.op) {
-		return state{}, false
-	}
-	// So that the access behind this one can be counted too.
-	if s.step == maxInt {
-		return state{}, false
-	}
-	if !rightSeen(s) {
-		return state{}, false
-	}
-	if !rightSwap(s) {
+	s.spares = r.list()
+	s.spareVersions = r.list()
+	s.laid = r.number()
+	s.level = r.number()
+	s.low = r.number()
+	s.child = r.number()
+	s.point = r.number()
+	s.seen = r.rest()
+	if r.bad || !rightState(s) {
 		return state{}, false
 	}
 	return s, true
 }
 
-// rightSeen tells whether a Scan may have seen this and still be under way; nothing else sees anything.
-func rightSeen(s state) bool {
+// rightState tells whether an operation may know this; what the text seen has to be, planned tells.
+func rightState(s state) bool {
+	// So that the access behind this one can be counted too.
+	if s.step == maxInt || s.page >= api.MaxPages {
+		return false
+	}
+	if !rightOp(s.op) {
+		return false
+	}
+	if !rightScan(s) {
+		return false
+	}
+	if !rightSeen(s) {
+		return false
+	}
+	if !rightSpares(s) {
+		return false
+	}
+	return rightEntry(s)
+}
+
+// rightScan tells whether a Scan may have seen this and still be under way; nothing else sees anything.
+func rightScan(s state) bool {
 	if s.op.Kind != api.Scan {
 		return len(s.keys)+len(s.vals)+len(s.belows)+len(s.points) == 0
 	}
@@ -123,72 +144,43 @@ func rightSeen(s state) bool {
 	return true
 }
 
-// rightSwap tells whether the operation may want this swap, or none.
-func rightSwap(s state) bool {
-	if s.swap == "" {
-		return s.version == 0 && !s.found && s.value == 0
+// rightSeen tells whether the operation may be about to change a page, or about to read one.
+func rightSeen(s state) bool {
+	if s.seen == "" {
+		return s.version == 0 && s.laid == 0
 	}
-	if s.op.Kind != api.Put && s.op.Kind != api.Drop {
-		return false
-	}
-	if s.value > api.MaxValue || (!s.found && s.value != 0) {
-		return false
-	}
-	leaf, err := page.Unpack(s.swap)
-	return err == api.OK && leaf.Level == 0
+	return s.op.Kind == api.Put || s.op.Kind == api.Drop
 }
 
-// reader goes along a frame. Once bad, it stays bad, and what it reads is worth nothing.
-type reader struct {
-	text string
-	at   int
-	bad  bool
-}
-
-func (r *reader) number() int {
-	sum := 0
-	start := r.at
-	for r.at < len(r.text) && r.text[r.at] >= '0' && r.text[r.at] <= '9' {
-		digit := int(r.text[r.at] - '0')
-		if sum > (maxInt-digit)/10 {
-			r.bad = true
-			return 0
+// rightSpares tells whether the operation may have made these pages.
+func rightSpares(s state) bool {
+	if s.op.Kind != api.Put && len(s.spares) > 0 {
+		return false
+	}
+	if len(s.spares) != len(s.spareVersions) || len(s.spares) > maxSpares || s.laid > len(s.spares) {
+		return false
+	}
+	for i := 0; i < len(s.spares); i++ {
+		// So that the version behind the next Swap is a number too.
+		if !isChild(s.spares[i]) || s.spareVersions[i] == maxInt {
+			return false
 		}
-		sum = 10*sum + digit
-		r.at++
 	}
-	if r.at == start || r.at >= len(r.text) || r.text[r.at] != ',' {
-		r.bad = true
-		return 0
-	}
-	r.at++
-	return sum
+	return true
 }
 
-func (r *reader) flag() bool {
-	number := r.number()
-	if number > 1 {
-		r.bad = true
+// rightEntry tells whether this may be left to enter.
+func rightEntry(s state) bool {
+	if s.level == 0 {
+		return s.low == 0 && s.child == 0 && s.point == 0
 	}
-	return number == 1
+	if s.op.Kind != api.Put || s.level > api.MaxLevel || s.point >= s.step {
+		return false
+	}
+	return s.low >= 1 && s.low <= api.MaxKey && isChild(s.child)
 }
 
-// rest is all that stands behind its own length.
-func (r *reader) rest() string {
-	count := r.number()
-	if count != len(r.text)-r.at {
-		r.bad = true
-	}
-	return r.text[r.at:]
-}
-
-func (r *reader) list() []int {
-	count := r.number()
-	var list []int
-	// A count may be far greater than what follows: the first number that is not there ends it.
-	for i := 0; i < count && !r.bad; i++ {
-		number := r.number()
-		list = append(list, number)
-	}
-	return list
+// isChild tells whether a link or a child can be this page: all can but the root.
+func isChild(number int) bool {
+	return number >= 1 && number < api.MaxPages
 }

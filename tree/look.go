@@ -4,6 +4,9 @@ import "sapling/api"
 
 // wanted is the key for which the operation looks now.
 func wanted(s state) int {
+	if s.level > 0 {
+		return s.low
+	}
 	if len(s.belows) > 0 {
 		return s.belows[len(s.belows)-1]
 	}
@@ -24,15 +27,14 @@ func onward(n api.Node, key int) int {
 	return child
 }
 
-// goOn is what Tell answers if the operation wants to read another page.
-func goOn(s state, next int) (string, api.Answer, bool, api.Errno) {
+// readOn is what Tell answers if the operation wants to read this page next.
+func readOn(s state, next int) (string, api.Answer, bool, api.Errno) {
 	// Only a node that no way leads to for this key has none onward: it is not this frame's reply.
 	if next < 0 {
-		return "", api.Answer{}, false, api.ErrFrame
+		return astray()
 	}
 	s.page = next
-	s.step++
-	return frameText(s), api.Answer{}, false, api.OK
+	return goOn(s)
 }
 
 // lookUp is the answer of an operation that ends with reading the leaf of its key.
@@ -64,7 +66,7 @@ func scanLeaf(s state, leaf api.Node) (string, api.Answer, bool, api.Errno) {
 	if full || below == end {
 		return "", scanned(s), true, api.OK
 	}
-	return goOn(s, leaf.Link)
+	return readOn(s, leaf.Link)
 }
 
 // addKeys takes over what the leaf has of the keys that are still looked for, while there is room.

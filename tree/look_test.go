@@ -231,6 +231,7 @@ func TestScan(t *testing.T) {
 
 // Every key, and every two keys near an end of a leaf or a key that is there.
 func TestLookingOverHandMadePages(t *testing.T) {
+	t.Parallel()
 	for _, p := range handMade() {
 		leaves := p.leaves(t)
 		for key := 1; key <= 9999; key++ {
@@ -262,6 +263,7 @@ func marksOf(leaves []api.Node) []int {
 }
 
 func TestLookingOverGrownPages(t *testing.T) {
+	t.Parallel()
 	r := rand.New(rand.NewPCG(1, 2))
 	linked, full, empty := 0, 0, 0
 	for round := range 150 {

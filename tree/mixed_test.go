@@ -77,6 +77,7 @@ func (o *orders) check(t *testing.T, count, most int) {
 
 // One leaf, three operations: every choice of them, in every order of their accesses.
 func TestEveryOrderOnOneLeaf(t *testing.T) {
+	t.Parallel()
 	ops := []api.Op{get(7), put(7, 1), put(7, 2), drop(7), put(8, 3), drop(9), scan(1, 9999)}
 	for _, p := range []*pages{laid("0------"), oneLeaf(), laid("0------" + "00090009")} {
 		o := &orders{before: p}
@@ -89,6 +90,7 @@ func TestEveryOrderOnOneLeaf(t *testing.T) {
 
 // Several levels, two operations at a time, at keys of one leaf and of two; and once three.
 func TestEveryOrderOnTrees(t *testing.T) {
+	t.Parallel()
 	ops := []api.Op{get(9), put(9, 1), drop(9), put(8, 2), put(12, 3), put(12, 4), drop(12), get(12), drop(13), scan(9, 12)}
 	for _, p := range []*pages{linkedLeaf(), linkedAll()} {
 		o := &orders{before: p}
@@ -108,13 +110,19 @@ type mix struct {
 	p      *pages
 	keys   []int // those that may be put
 	others []int // those that may be looked for and dropped, beside them
+	stop   int   // of so many accesses, one is its client's last; 0: none is
+	fill   bool  // whether most of what is begun are Puts
 	under  []*client
 	all    []*client
+	puts   int // that were begun
 	now    int
 }
 
 func (m *mix) op() api.Op {
 	key := m.keys[m.r.IntN(len(m.keys))]
+	if m.fill && m.r.IntN(3) > 0 {
+		return put(key, m.r.IntN(10000))
+	}
 	switch m.r.IntN(8) {
 	case 0:
 		return get(key)
@@ -137,6 +145,9 @@ func (m *mix) run(t *testing.T, begun, atOnce int) {
 		if len(m.all) < begun && (len(m.under) == 0 || (len(m.under) < atOnce && m.r.IntN(3) == 0)) {
 			c := begin(t, m.op())
 			m.under, m.all = append(m.under, c), append(m.all, c)
+			if c.op.Kind == api.Put {
+				m.puts++
+			}
 		}
 		i := m.r.IntN(len(m.under))
 		c := m.under[i]
@@ -144,10 +155,28 @@ func (m *mix) run(t *testing.T, begun, atOnce int) {
 		for n := []int{1, 1, 1, 2, 5}[m.r.IntN(5)]; n > 0 && !c.ended; n-- {
 			c.move(t, m.p, m.now)
 			m.now++
+			if m.p.strict && m.p.count() > 1+3*m.puts {
+				t.Fatalf("P12: %d pages behind %d Puts", m.p.count(), m.puts)
+			}
 		}
-		if c.ended || m.r.IntN(150) == 0 {
+		if m.r.IntN(50) == 0 {
+			m.checkStuck(t)
+		}
+		if c.ended || (m.stop > 0 && m.r.IntN(m.stop) == 0) {
 			m.under = append(m.under[:i], m.under[i+1:]...)
 		}
+	}
+}
+
+// checkStuck is P11: from now on any one of them moves alone, those that have stopped too.
+func (m *mix) checkStuck(t *testing.T) {
+	c := m.all[m.r.IntN(len(m.all))].clone()
+	p := m.p.copied()
+	for n := 0; !c.ended; n++ {
+		if n == 1000 {
+			t.Fatalf("P11: %+v does not end", c.op)
+		}
+		c.move(t, p, m.now+n)
 	}
 }
 
@@ -188,25 +217,26 @@ func checkMix(t *testing.T, m *mix, y *tally, begun, atOnce int) {
 	before := m.p.copied()
 	m.run(t, begun, atOnce)
 	after := checkOrder(t, before.content(t), m.all)
-	// Of Puts and Drops that stopped, none has swapped: with its Swap, each ends.
 	checkContent(t, m.p, after)
 	checkShape(t, before, m.p)
 	y.add(m.all)
 }
 
 func TestMixedOnOneLeaf(t *testing.T) {
+	t.Parallel()
 	r := rand.New(rand.NewPCG(7, 8))
 	y := &tally{}
 	for round := range 200 {
 		p := laid("0------")
 		p.versions[0] = []int{0, r.IntN(10000), math.MaxInt - 1000}[round%3]
 		keys := []int{1, 2, 5000, 9998, 9999}[:1+round%5]
-		checkMix(t, &mix{r: r, p: p, keys: keys, others: []int{1, 3, 4999, 9997, 9999}}, y, 200, 2+round%9)
+		checkMix(t, &mix{r: r, p: p, keys: keys, others: []int{1, 3, 4999, 9997, 9999}, stop: 150}, y, 200, 2+round%9)
 	}
 	y.check(t)
 }
 
 func TestMixedOnGrownPages(t *testing.T) {
+	t.Parallel()
 	r := rand.New(rand.NewPCG(9, 10))
 	y := &tally{}
 	for round := range 200 {
@@ -219,7 +249,68 @@ func TestMixedOnGrownPages(t *testing.T) {
 		// Few keys that are near each other, so that clients meet.
 		first := r.IntN(len(keys))
 		keys = keys[first:min(first+2+r.IntN(12), len(keys))]
-		checkMix(t, &mix{r: r, p: p, keys: keys, others: marksOf(leaves)}, y, 200, 2+r.IntN(12))
+		checkMix(t, &mix{r: r, p: p, keys: keys, others: marksOf(leaves), stop: 150}, y, 200, 2+r.IntN(12))
 	}
 	y.check(t)
+}
+
+// splits counts what happened in mixes with splits.
+type splits struct {
+	levels                  [6]int // mixes that ended with a tree of so many
+	full, late, quick       int
+	missed, halfWay, spared int
+}
+
+func (y *splits) add(t *testing.T, m *mix) (vain, stopped int) {
+	t.Helper()
+	y.levels[m.p.levels(t)]++
+	for _, c := range m.all {
+		y.missed += c.missed
+		vain += c.vain
+		if c.answer.Err == api.ErrFull {
+			y.full++
+		}
+		if c.vain > 0 && c.took >= 0 {
+			y.late++
+		}
+		if c.made > 0 && c.answer.Found {
+			y.spared++
+		}
+		if !c.ended {
+			stopped++
+			if c.took >= 0 {
+				y.halfWay++
+			}
+		}
+	}
+	return vain, stopped
+}
+
+// From the beginning, with splits, until the pages run out or nearly so.
+func TestMixedSplits(t *testing.T) {
+	t.Parallel()
+	r := rand.New(rand.NewPCG(15, 16))
+	y := &splits{}
+	for round := range 300 {
+		span := []int{8, 20, 60, 200, 9999}[round%5]
+		keys := r.Perm(span)
+		for i := range keys {
+			keys[i]++
+		}
+		keys = keys[:min(span, 300)]
+		m := &mix{r: r, p: begun(), keys: keys, others: []int{1, 2, span/2 + 1, span, 9999},
+			stop: []int{0, 0, 30, 100}[round%4], fill: round%6 < 4}
+		m.run(t, []int{30, 150, 450}[round%3], []int{3, 9, 40}[r.IntN(3)])
+		after := checkOrder(t, map[int]int{}, m.all)
+		checkContent(t, m.p, after)
+		vain, stopped := y.add(t, m)
+		if vain == 0 && stopped == 0 {
+			y.quick++
+			checkQuick(t, m.p)
+		}
+		checkReach(t, m.p)
+	}
+	if min(y.levels[2], y.levels[3], y.levels[4], y.halfWay, y.spared) < 10 || min(y.full, y.quick, y.missed) < 100 || y.late < 3 {
+		t.Errorf("the mixes are too plain: %+v", *y)
+	}
 }

@@ -13,6 +13,51 @@ type pages struct {
 	texts    [64]string
 	versions [64]int
 	used     [64]bool
+	strict   bool // whether P9 and P10 are held against, behind every access
+	known    *known
+}
+
+// known is what was made out of these texts, so that it need not be made again.
+type known struct {
+	texts   [64]string
+	content map[int]int
+}
+
+// begun are the pages as they are at the beginning.
+func begun() *pages {
+	p := laid(First())
+	p.strict = true
+	return p
+}
+
+// same tells whether the caller could not tell the one from the other.
+func (p *pages) same(q *pages) bool {
+	return p.texts == q.texts && p.versions == q.versions && p.used == q.used
+}
+
+// count tells how many pages are not free.
+func (p *pages) count() int {
+	count := 0
+	for _, used := range p.used {
+		if used {
+			count++
+		}
+	}
+	return count
+}
+
+// leave takes all free pages away but so many.
+func (p *pages) leave(free int) {
+	for i := range p.used {
+		if p.used[i] {
+			continue
+		}
+		if free > 0 {
+			free--
+			continue
+		}
+		p.used[i], p.texts[i] = true, "0------"
+	}
 }
 
 // laid has these texts at the pages from 0 on.
@@ -53,7 +98,6 @@ func (p *pages) act(a api.Ask) api.Reply {
 }
 
 func (p *pages) node(t *testing.T, number int) api.Node {
-	t.Helper()
 	if number < 0 || number > 63 || !p.used[number] {
 		t.Fatalf("page %d is free", number)
 	}
@@ -66,7 +110,6 @@ func (p *pages) node(t *testing.T, number int) api.Node {
 
 // leaves goes along the leaves, as P9 does.
 func (p *pages) leaves(t *testing.T) []api.Node {
-	t.Helper()
 	n := p.node(t, 0)
 	for n.Level > 0 {
 		n = p.node(t, n.Vals[0])
